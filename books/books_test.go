@@ -69,6 +69,9 @@ func TestNone(t *testing.T) { // P14.1 to P14.4
 }
 
 func TestNote(t *testing.T) { // P14.2
+	if [...]int{Submitted, Started, Finished, Killed, Cancelled} != [...]int{0, 1, 2, 3, 4} {
+		t.Error("kinds")
+	}
 	b := books(t, 10)
 	for _, c := range [][2]int{{0, 1}, {17, 1}, {-1, 1}, {1, -1}, {1, 5}, {math.MaxInt, math.MinInt}} {
 		if b.Note(c[0], c[1]) != api.ErrArg {

@@ -124,6 +124,9 @@ func TestTimes(t *testing.T) { // P25.3
 	}
 	step(t, c, 9, api.OK, begin(2, 0, 1, 9, 2))
 	c = chart(t)
+	step(t, c, 15, api.OK, begin(1, 0, 1, 6, 0, 1))
+	step(t, c, 16, api.ErrState)
+	c = chart(t)
 	step(t, c, never-1, api.ErrState, begin(1, 0, 1, 6, 0, 1))
 	if len(c.Open()) != 1 {
 		t.Error("what should have ended")
@@ -211,6 +214,8 @@ func TestLost(t *testing.T) { // P25.3
 	c, _ = New([]int{4, 2}, rules, 5)
 	c.Job(1, 0, 2, 10)
 	step(t, c, 0, api.OK, b)
+	c.Tell(0, 1, health.Beat)
+	step(t, c, 0, api.ErrState, end(b, 0, core.Lost)) // it was told something, and is not down
 	fall(c, 0, 1)
 	step(t, c, 1, api.ErrState) // it goes on, on a node that is down
 	step(t, c, 2, api.ErrState, end(b, 2, core.Lost))

@@ -140,7 +140,7 @@ func TestAfterFault(t *testing.T) { // P2.4
 		t.Error("something was read behind a fault")
 	}
 	r = Read([]byte{2, 4})
-	if r.Rest() != 2 || r.End() != api.ErrForm || r.Bad() != api.OK || r.Int() != 1 || r.Rest() != 1 || r.Int() != 2 || r.End() != api.OK {
+	if r.Rest() != 2 || r.End() != api.ErrForm || r.Bad() != api.OK || r.Int() != 1 || r.Rest() != 1 || r.End() != api.ErrForm || r.Int() != 2 || r.End() != api.OK {
 		t.Error("End")
 	}
 }

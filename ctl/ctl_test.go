@@ -209,6 +209,27 @@ func TestSavedByItself(t *testing.T) { // P27.2
 	}
 }
 
+func TestSavedAbove4096(t *testing.T) { // P27.2
+	c := open(t, disk.New())
+	for at := 1; at < 63; at++ {
+		says(t, c, "tick to="+strconv.Itoa(at), "ok\n") // 21 bytes each
+	}
+	for at := 64; at < 191; at++ {
+		says(t, c, "tick to="+strconv.Itoa(at), "ok\n") // 22
+	}
+	if c.Kept() != 4096 || c.Gen() != 0 {
+		t.Error(c.Kept(), c.Gen())
+	}
+	says(t, c, "undrain", "error 13\n")
+	if c.Gen() != 0 {
+		t.Error("saved by what was refused")
+	}
+	says(t, c, "tick to=999", "ok\n")
+	if c.Kept() != 0 || c.Gen() != 1 {
+		t.Error(c.Kept(), c.Gen())
+	}
+}
+
 func TestSave(t *testing.T) { // P27.3
 	d := disk.New()
 	c := open(t, d)
@@ -222,6 +243,9 @@ func TestSave(t *testing.T) { // P27.3
 	}
 	if c.Save() != api.OK || c.Gen() != 2 {
 		t.Error(c.Gen())
+	}
+	if s, _ := snaps.Open(d, 1, 2); s.Slot() != 2 {
+		t.Error("the second snapshot", s.Slot())
 	}
 	for left := range 4 {
 		d.Arm(left)

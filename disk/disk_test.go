@@ -28,6 +28,9 @@ func safe(t *testing.T, d *Disk, f int) string {
 
 func TestNewAndClone(t *testing.T) { // P4.1
 	d := New()
+	if Files != 4 {
+		t.Error("Files")
+	}
 	for f := range Files {
 		if text(t, d, f) != "" || safe(t, d, f) != "" {
 			t.Error("not empty", f)

@@ -42,7 +42,7 @@ func TestFitsAndWidest(t *testing.T) { // P11.1
 	for _, c := range []struct {
 		from, many api.Time
 		want       int
-	}{{0, 5, 4}, {0, 6, 1}, {3, 0, 4}, {5, -9, 1}, {8, 2, 1}, {9, never, 4}, {-7, 5, 4}, {never, 3, 4}, {never + 7, -1, 4}, {math.MinInt64, math.MaxInt64, 1}, {never - 1, math.MinInt64, 4}} {
+	}{{0, 5, 4}, {4, 0, 4}, {4, 2, 1}, {0, 6, 1}, {3, 0, 4}, {5, -9, 1}, {8, 2, 1}, {9, never, 4}, {-7, 5, 4}, {never, 3, 4}, {never + 7, -1, 4}, {math.MinInt64, math.MaxInt64, 1}, {never - 1, math.MinInt64, 4}} {
 		if got := Widest(free, c.from, c.many); got != c.want {
 			t.Error(c, got)
 		}
@@ -62,6 +62,9 @@ func TestEarliestAndLatest(t *testing.T) { // P11.2
 		if got := Earliest(free, c.from, c.many, c.width); got != c.want {
 			t.Error(c, got)
 		}
+	}
+	if Earliest(usage.Flat(4), 3, 5, 4) != 3 || Earliest(usage.Flat(4), 3, 5, 5) != never {
+		t.Error("of one level")
 	}
 	for _, c := range []struct {
 		span  tick.Span

@@ -58,6 +58,9 @@ func TestRight(t *testing.T) { // P15.1
 			}
 		}
 	}
+	if j := waiting(); !(Job{Id: 1, User: 1, Width: 1, Limit: 1}).Right() || !(Job{Id: 1, User: 1, Width: 64, Limit: 1}).Right() || j.State != 0 {
+		t.Error("widths")
+	}
 	for what, change := range map[string]func(*Job){"nodes": func(j *Job) { j.Nodes = 6 }, "start": func(j *Job) { j.Start = 1 }, "end": func(j *Job) { j.End = 1 }} {
 		j := waiting()
 		if change(&j); j.Right() {

@@ -37,6 +37,8 @@ func lines() map[string]Line {
 		"nodes part=3":                  {Query: Nodes, Part: 3},
 		"plans part=1":                  {Query: Plans, Part: 1},
 		"resvs part=2":                  {Query: Resvs, Part: 2},
+		"job id=1":                      {Query: Job, Id: 1},
+		"job id=1073741824":             {Query: Job, Id: 1 << 30},
 		"job id=7":                      {Query: Job, Id: 7},
 	}
 }
@@ -100,6 +102,11 @@ func TestText(t *testing.T) { // P23.2, P23.4
 	}
 	if Text(Line{Command: cmd.Command{Kind: cmd.Submit, User: -3, Nice: math.MinInt}}) != "submit user=-3 width=0 limit=0 nice=-9223372036854775808" {
 		t.Error("what is not right")
+	}
+	for what, want := range map[int]string{-1: "tell node=1 what=-1", 4: "tell node=1 what=ready", 5: "tell node=1 what=5", math.MaxInt: "tell node=1 what=9223372036854775807"} {
+		if got := Text(Line{Command: cmd.Command{Kind: cmd.Tell, Node: 1, What: what}}); got != want {
+			t.Error(got)
+		}
 	}
 }
 

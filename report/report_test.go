@@ -45,6 +45,51 @@ func TestMadeOf(t *testing.T) { // P30.1
 		"ok", "ok id 1", "ok id 2 at 9", "ok id 3 at 18", "ok", "job 1 user 1 part 0 width 1 limit 9 expired tries 1 end 9", "job 2 user 1 part 0 width 1 limit 9 running tries 1 until 18 nodes 0", "job 3 user 1 part 0 width 1 limit 9 waiting tries 0 promise 18", "user 1 submitted 3 started 2 finished 0 killed 1 cancelled 0 ticks 9 factor 0")
 }
 
+func TestAtFirst(t *testing.T) { // P30.1: what is not named is as it is at first
+	puts(t, lines("part 3 1", "start", "> tell node=0 what=miss", "> nodes", "> tell node=0 what=miss", "> nodes", "> tell node=0 what=mend", "> tell node=0 what=beat", "> nodes"),
+		"ok", "ok", "node 0 suspect spare idle", "node 1 up active idle", "node 2 up active idle", "ok", "node 0 down spare idle", "node 1 up active idle", "node 2 up active idle", "ok", "ok", "node 0 up spare idle", "node 1 up active idle", "node 2 up active idle")
+	puts(t, lines("part 3 0", "start", "> submit user=1 width=1 limit=9", "> tell node=0 what=miss", "> tell node=0 what=miss", "> queue", "> tell node=1 what=miss", "> tell node=1 what=miss", "> queue"),
+		"ok", "ok id 1", "ok", "ok", "job 1 user 1 part 0 width 1 limit 9 running tries 2 until 9 nodes 1", "ok", "ok", "job 1 user 1 part 0 width 1 limit 9 failed tries 2 end 0")
+	half := lines("part 2 0", "start", "> submit user=1 width=1 limit=50", "> submit user=2 width=1 limit=149", "> tick to=149", "> books", "> tick to=150", "> books")
+	puts(t, half, "ok", "ok id 1", "ok id 2", "ok",
+		"user 1 submitted 1 started 1 finished 0 killed 1 cancelled 0 ticks 50 factor 749", "user 2 submitted 1 started 1 finished 0 killed 1 cancelled 0 ticks 149 factor 252", "ok",
+		"user 1 submitted 1 started 1 finished 0 killed 1 cancelled 0 ticks 50 factor 857", "user 2 submitted 1 started 1 finished 0 killed 1 cancelled 0 ticks 149 factor 144")
+}
+
+func TestNumbersInOrder(t *testing.T) { // P30.1
+	miss, beat := "> tell node=0 what=miss", "> tell node=0 what=beat"
+	puts(t, lines("part 2 0", "rules 2 4 3", "start", miss, "nodes 0", miss, "nodes 0", beat, beat, "nodes 0", beat, "nodes 0", miss, miss, miss, "> nodes", miss, "> nodes"),
+		"ok", "ok", "up 0,1 active 0,1 spares none lack 0", "ok", "up 1 active 0,1 spares none lack 1", "ok", "ok", "up 1 active 0,1 spares none lack 1", "ok", "up 0,1 active 0,1 spares none lack 0",
+		"ok", "ok", "ok", "node 0 suspect active idle", "node 1 up active idle", "ok", "node 0 down active idle", "node 1 up active idle")
+	first := func(weights, a, b string) string {
+		return lines("part 2 0", weights, "start", "> submit user=1 width=2 limit=32", "> submit user=2 width=1 limit=1 hold", a, b, "> exit id=1", "> plans")
+	}
+	wide, nice, other := "> submit user=2 width=2 limit=5", "> submit user=1 width=1 limit=5 nice=-5", "> submit user=1 width=1 limit=5"
+	puts(t, first("weights 0 9 0 0", other, wide), "ok", "ok id 1", "ok id 2 at never", "ok id 3 at 32", "ok id 4 at 37", "ok id 1", "job 3 plan 5 promise 32")
+	puts(t, first("weights 0 0 0 9", wide, nice), "ok", "ok id 1", "ok id 2 at never", "ok id 3 at 32", "ok id 4 at 37", "ok id 1", "job 3 plan 5 promise 32")
+	puts(t, first("weights 9 0 0 0", other, wide), "ok", "ok id 1", "ok id 2 at never", "ok id 3 at 32", "ok id 4 at 37", "ok id 1", "job 4 plan 5 promise 37")
+	puts(t, lines("part 1 0", "weights 0 0 9 0", "start", "> submit user=1 width=1 limit=9", "> tick to=9", "> submit user=3 width=1 limit=9", "> submit user=1 width=1 limit=5", "> submit user=2 width=1 limit=5", "> exit id=2", "> plans"),
+		"ok", "ok id 1", "ok", "ok id 2 at 9", "ok id 3 at 18", "ok id 4 at 23", "ok id 2", "job 3 plan 14 promise 18")
+	puts(t, lines("part 1 0", "weights 9 0 0 0", "start", "> submit user=1 width=1 limit=9", "> tick to=9", "> submit user=3 width=1 limit=9", "> submit user=1 width=1 limit=5", "> submit user=2 width=1 limit=5", "> exit id=2", "> plans"),
+		"ok", "ok id 1", "ok", "ok id 2 at 9", "ok id 3 at 18", "ok id 4 at 23", "ok id 2", "job 4 plan 14 promise 23")
+	kept := func(fall string) string {
+		return lines("part 2 0", "start", "> tick to=1", "arm 1", "> tick to=2", fall, "open", "state")
+	}
+	puts(t, kept("fall 21 0 0 0"), "ok", "ok", "ok", "error 17", "ok", "ok", "now 2 gen 1 kept 0 answered 1 revoked 0")
+	puts(t, kept("fall 20 99 99 99"), "ok", "ok", "ok", "error 17", "ok", "ok", "now 1 gen 1 kept 0 answered 1 revoked 0")
+}
+
+func TestFallOfSnapshots(t *testing.T) { // P30.2: the four numbers of a fall, in order
+	saved := func(fall string) string {
+		return lines("part 2 0", "start", "> tick to=1", "save", "> tick to=2", "arm 2", "save", fall, "open", "state")
+	}
+	want := func(gen string) []string {
+		return []string{"ok", "ok", "ok", "ok", "ok", "error 17", "ok", "ok", "now 2 gen " + gen + " kept 0 answered 2 revoked 0"}
+	}
+	puts(t, saved("fall 0 0 9999 0"), want("3")...)
+	puts(t, saved("fall 9999 9999 0 9999"), want("2")...)
+}
+
 func TestDone(t *testing.T) { // P30.2
 	puts(t, lines("> queue", "> ", "arm 1", "fall 0 0 0 0", "save", "open", "state", "audit", "free 0", "nodes 9"), "none", "none", "none", "none", "none", "none", "none", "none", "none", "none")
 	puts(t, lines("part 2 1", "start", "> queue", "> ", ">  queue", "> nothing", "> "+strings.Repeat("x", 264), "> "+strings.Repeat("x", 265), "> cancel id=1"), "ok", "error 11", "error 11", "error 11", "error 3", "error 2", "error 13")

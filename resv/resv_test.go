@@ -81,6 +81,9 @@ func TestAdd(t *testing.T) { // P18.2
 			t.Error("steps that nobody made", bad)
 		}
 	}
+	if id, bad := New().Add(usage.Flat(64), span(0, 1), 64); id != 1 || bad != api.OK {
+		t.Error("the widest", bad)
+	}
 	if id, bad := l.Add(free, span(9, never-1), 3); id != 3 || bad != api.OK {
 		t.Error(id, bad)
 	}
@@ -156,6 +159,13 @@ func TestBytes(t *testing.T) { // P18.4
 	want := append([]byte{9}, lay(3, 2, 1, 5, 9, 3, 2, 8, 12, 1)...)
 	if got := l.Put([]byte{9}); !bytes.Equal(got, want) {
 		t.Errorf("% x", got)
+	}
+	room := append(make([]byte, 0, 999), 9)
+	if l.Put(room); room[:2][1] != 0 {
+		t.Error("spare room was written")
+	}
+	if got, n, bad := Read(New().Put(nil)); bad != api.OK || n != 2 || got.Next() != 1 {
+		t.Error("an empty one", n, bad)
 	}
 	got, n, bad := Read(append(bytes.Clone(want[1:]), 7, 7))
 	if bad != api.OK || n != len(want)-1 || !slices.Equal(got.All(), l.All()) || got.Next() != 3 {

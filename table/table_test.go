@@ -210,6 +210,11 @@ func TestWaitedForStays(t *testing.T) { // P16.2, P16.5
 func TestLastNumber(t *testing.T) { // P16.2
 	b := append(coding.PutInt(nil, 1<<30), 0)
 	tab, _, bad := Read(b)
+	last := some()
+	last.User = 0
+	if _, bad := tab.Add(last); bad != api.ErrForm {
+		t.Error(bad)
+	}
 	if bad != api.OK || add(t, tab, some()) != 1<<30 {
 		t.Fatal(bad)
 	}
@@ -269,6 +274,13 @@ func TestBytes(t *testing.T) { // P16.4
 	want := job.Put(job.Put([]byte{9, 6, 4}, one), two)
 	if got := tab.Put([]byte{9}); !bytes.Equal(got, want) {
 		t.Errorf("% x", got)
+	}
+	room := append(make([]byte, 0, 9999), 9)
+	if tab.Put(room); room[:2][1] != 0 {
+		t.Error("spare room was written")
+	}
+	if got, n, bad := Read(New().Put(nil)); bad != api.OK || n != 2 || got.Next() != 1 {
+		t.Error("an empty one", n, bad)
 	}
 	b := tab.Put(nil)
 	got, n, bad := Read(append(bytes.Clone(b), 5, 5))

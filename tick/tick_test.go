@@ -29,7 +29,7 @@ func TestSums(t *testing.T) { // P1.1
 		{"times never", Times(never, 1), never}, {"times of nothing", Times(0, math.MaxInt), 0},
 		{"times up to", Times(1<<39, 2), never}, {"times over", Times(1<<39, 3), never},
 		{"times far", Times(3, math.MaxInt), never}, {"times near", Times(1<<20-1, 1<<20), (1<<20 - 1) << 20},
-		{"times low", Times(-3, 4), 0},
+		{"times low", Times(-3, 4), 0}, {"times just in", Times(3, 366503875925), never - 1}, {"times just over", Times(3, 366503875926), never},
 		{"up", Up(7, 5), 10}, {"up at one", Up(10, 5), 10}, {"up by none", Up(7, 0), 7}, {"up by less", Up(7, -3), 7},
 		{"up far", Up(7, 1<<62), never}, {"up of 0", Up(0, 1<<62), 0}, {"up of never", Up(never, 7), never},
 		{"up beyond", Up(never-1, 2), never}, {"up low", Up(-9, 4), 0}, {"up greatest", Up(math.MaxInt64, math.MaxInt64), never},

@@ -78,6 +78,10 @@ func TestAddAndSet(t *testing.T) { // P10.2
 	same(t, s, Step{0, -1000000}, Step{1, 8}, Step{never - 1, 1000000})
 	s.Set(tick.Span{From: 0, To: 1}, math.MaxInt)
 	same(t, s, Step{0, 1000000}, Step{1, 8}, Step{never - 1, 1000000})
+	low := Flat(-1000000)
+	if low.Add(tick.Span{To: 1}, 1500000); low.At(0) != 500000 {
+		t.Error(low.List())
+	}
 	for _, empty := range []tick.Span{{From: 5, To: 5}, {From: 8, To: 2}, {From: -4, To: 0}, {From: never, To: never + 1}} {
 		if s.Add(empty, 5) != api.OK || s.Set(empty, 5) != api.OK {
 			t.Error(empty)
@@ -100,6 +104,9 @@ func TestLevels(t *testing.T) { // P10.3
 		if s.Least(span) != int(want[0]) || s.Most(span) != int(want[1]) || s.Area(span) != want[2] {
 			t.Error(span, s.Least(span), s.Most(span), s.Area(span))
 		}
+	}
+	if s := of(t, Step{0, 5}, Step{never - 1, 3}); s.At(never-2) != 5 || s.At(never-1) != 3 || s.At(never) != 3 {
+		t.Error("the last time")
 	}
 	all := tick.Span{To: never}
 	if Flat(1).Area(all) != never || Flat(1).Area(tick.Span{From: 5, To: never}) != never-5 || Flat(1000000).Area(all) != never || Flat(-5).Area(all) != 0 {
