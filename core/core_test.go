@@ -381,6 +381,9 @@ func TestTell(t *testing.T) { // P24.2, P24.3, P24.5
 	if !slices.Equal(l, want) {
 		t.Error(l)
 	}
+	if Lost != 6 {
+		t.Error("Lost")
+	}
 	if j := get(t, s, 1); j.Black != bits.Of(1) || j.Tries != 2 || j.Until() != 13 || j.Promise != 3 {
 		t.Error(j)
 	}
@@ -467,6 +470,15 @@ func TestTooFewNodes(t *testing.T) { // P24.3: due, but what is not barred is no
 		t.Error(l)
 	}
 	s = state(t, c)
+	ok(t, s, "submit user=1 width=2 limit=10", "tell node=0 what=miss", "tell node=0 what=miss", "tell node=0 what=mend", "tell node=0 what=beat", "submit user=2 width=1 limit=7", "tell node=1 what=miss", "submit user=3 width=3 limit=5")
+	if get(t, s, 3).Promise != 10 {
+		t.Error(get(t, s, 3))
+	}
+	ok(t, s, "tell node=1 what=miss")
+	if a, b := get(t, s, 1), get(t, s, 3); a.Plan != 12 || a.Promise != 15 || b.Plan != 7 || b.Promise != 10 {
+		t.Error("what waits is not pressed again", a, b)
+	}
+	s = state(t, c)
 	ok(t, s, "submit user=1 width=3 limit=10", "tell node=0 what=miss", "tell node=0 what=miss", "tell node=0 what=mend", "tell node=0 what=beat", "tell node=1 what=miss", "tell node=1 what=miss")
 	if j := get(t, s, 1); j.State != job.Waiting || j.Plan != never || j.Promise != never || s.Revoked() != 1 {
 		t.Error(j, s.Revoked())
@@ -539,6 +551,14 @@ func TestTick(t *testing.T) { // P24.4
 	ok(t, s, "exit id=4")
 }
 
+func TestTickToNow(t *testing.T) { // P24.4: all is settled once
+	s := four(t)
+	s.Jobs().Add(job.Job{User: 1, Width: 2, Limit: 7, Plan: never, Promise: never})
+	if l := ok(t, s, "tick to=0"); !slices.Equal(l, []Event{{Job: 1, Try: 1, Nodes: bits.Of(0, 1)}}) {
+		t.Error(l)
+	}
+}
+
 func TestTickStopsAtDrains(t *testing.T) { // P24.4
 	s := four(t)
 	ok(t, s, "submit user=1 width=2 limit=25", "reserve from=0 many=20 width=1")
@@ -586,7 +606,7 @@ func TestBytes(t *testing.T) { // P24.6
 		"now below 0": func(l []any) { l[0] = -1 }, "now never": func(l []any) { l[0] = int(never) }, "revoked below 0": func(l []any) { l[1] = -1 }, "no table": func(l []any) { l[2] = []byte{} }, "a table and more": func(l []any) { l[2] = append(s.Jobs().Put(nil), 0) },
 		"no books": func(l []any) { l[3] = []byte{} }, "another half-life": func(l []any) { l[3] = half.Put() }, "no fleet": func(l []any) { l[4] = []byte{} }, "fewer nodes": func(l []any) { l[4] = small.Put() }, "other spares": func(l []any) { l[4] = spare.Put() }, "other rules": func(l []any) { l[4] = rules.Put() },
 		"no reservations": func(l []any) { l[5] = []byte{} }, "reservations and more": func(l []any) { l[5] = append(resv.New().Put(nil), 0) }, "a drain of none": func(l []any) { l[7] = roll.Put(nil, r) }, "none of a drain": func(l []any) { l[12] = []byte{} }, "drain 2": func(l []any) { l[11] = 2 }, "a drain and more": func(l []any) { l[12] = append(roll.Put(nil, r), 0) },
-		"a drain of other nodes": func(l []any) { l[12] = roll.Put(nil, roll.Roll{Width: 1, Held: bits.Of(2)}) }, "lack below 0": func(l []any) { l[8] = -1 }, "lack 65": func(l []any) { l[13] = 65 }, "more": func(l []any) { l[13] = []byte{0, 0} }, "a wrong text": func(l []any) { l[2] = 5 },
+		"a drain of other nodes": func(l []any) { l[12] = roll.Put(nil, roll.Roll{Width: 1, Held: bits.Of(2)}) }, "lack below 0": func(l []any) { l[8] = -1 }, "lack 65": func(l []any) { l[13] = 65 }, "more": func(l []any) { l[13] = []byte{0, 0} }, "a wrong text": func(l []any) { l[2] = 5 }, "drain 2 of none": func(l []any) { l[6] = 2 },
 	} {
 		l := parts()
 		change(l)
@@ -634,7 +654,10 @@ func TestWildBytes(t *testing.T) { // P24.6: states that no command leads to are
 		t.Fatal(bad)
 	}
 	says(t, s, "cancel id=5", cmd.Reply{Code: api.ErrLate})
-	ok(t, s, "tick to=3", "tell node=0 what=miss", "tell node=0 what=miss", "tick to=300")
+	if ok(t, s, "tick to=3"); get(t, s, 1).Plan != 60 {
+		t.Error("one that may not be tried again is planned for later", get(t, s, 1))
+	}
+	ok(t, s, "tell node=0 what=miss", "tell node=0 what=miss", "tick to=300")
 	if s.Now() != 300 || s.Revoked() != math.MaxInt || get(t, s, 1).State != job.Waiting {
 		t.Error(s.Now(), get(t, s, 1))
 	}

@@ -120,11 +120,8 @@ func (w *work) stop(c cmd.Command) (answer, api.Errno) {
 		how, what = job.Done, books.Finished
 	}
 	j, bad := w.known(c.Id)
-	if bad == api.OK && how == job.Done && j.State != job.Running {
-		bad = api.ErrState
-	}
 	if bad == api.OK {
-		bad = w.end(j, how, what)
+		bad = w.end(j, how, what) // it refuses to let one that waits be done
 	}
 	if bad != api.OK {
 		return answer{}, bad

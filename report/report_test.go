@@ -86,6 +86,11 @@ func TestFallOfSnapshots(t *testing.T) { // P30.2: the four numbers of a fall, i
 	want := func(gen string) []string {
 		return []string{"ok", "ok", "ok", "ok", "ok", "error 17", "ok", "ok", "now 2 gen " + gen + " kept 0 answered 2 revoked 0"}
 	}
+	first := func(fall string) string {
+		return lines("part 2 0", "start", "> tick to=1", "arm 2", "save", fall, "open", "state")
+	}
+	puts(t, first("fall 0 9999 0 0"), "ok", "ok", "ok", "error 17", "ok", "ok", "now 1 gen 2 kept 0 answered 1 revoked 0")
+	puts(t, first("fall 9999 0 9999 9999"), "ok", "ok", "ok", "error 17", "ok", "ok", "now 1 gen 1 kept 0 answered 1 revoked 0")
 	puts(t, saved("fall 0 0 9999 0"), want("3")...)
 	puts(t, saved("fall 9999 9999 0 9999"), want("2")...)
 }
