@@ -124,6 +124,32 @@ func TestNone(t *testing.T) { // P26.1
 	}
 }
 
+func TestPartThatThereIsNot(t *testing.T) { // P26.1
+	s := state(t, "submit user=1 width=1 limit=10", "submit user=1 width=3 limit=10", "drain width=1 part=1", "reserve from=30 many=5 width=2")
+	for query := parse.Queue; query <= parse.Job; query++ {
+		for _, part := range []int{2, 3, -1, api.MaxParts, math.MinInt, math.MaxInt} {
+			l := parse.Line{Query: query, Part: part, Id: 1}
+			if got := Tell(s, l); got != "" {
+				t.Errorf("query %d of part %d: %q", query, part, got)
+			}
+			for line := range Lines(s, l) {
+				t.Errorf("query %d of part %d: %q", query, part, line)
+			}
+		}
+		if Tell(s, parse.Line{Query: query, Id: 1}) == "" {
+			t.Errorf("query %d of part 0: none", query)
+		}
+	}
+	for query, whole := range map[int]bool{parse.Queue: true, parse.Nodes: false, parse.Books: true, parse.Plans: false, parse.Drains: true, parse.Resvs: false, parse.Job: true} {
+		l := parse.Line{Query: query, Id: 1}
+		first := Tell(s, l)
+		l.Part = 1
+		if got := Tell(s, l); (got == first) != whole {
+			t.Errorf("query %d of part 1: %q", query, got)
+		}
+	}
+}
+
 func TestReply(t *testing.T) { // P26.2
 	for r, want := range map[cmd.Reply]string{
 		{Id: 3, At: 10}: "ok id 3 at 10", {}: "ok", {Id: 3}: "ok id 3", {At: 7}: "ok at 7", {At: api.Never}: "ok at never", {At: math.MaxInt64}: "ok at never", {Id: -1, At: -2}: "ok id -1 at -2",
