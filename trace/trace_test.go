@@ -156,6 +156,38 @@ func TestBusyAndPeak(t *testing.T) { // P32.3
 	}
 }
 
+func TestOneJobInTwoParts(t *testing.T) { // P32.2, P32.3, P32.4
+	for name, c := range map[string]struct {
+		events       []core.Event
+		first, other string // what is drawn of the parts 0 and 1
+		busy         [2]int // at 3
+		peak, at     [2]int
+		sum          Sum
+	}{
+		"an end elsewhere at once": {[]core.Event{in(1, begin(5, 0, 0)), end(5, 0, 1, 0)}, "....\n....\n", "5555\n....\n", [2]int{0, 1}, [2]int{0, 1}, [2]int{0, 0}, Sum{5, 1, 0, 0, 0, 1}},
+		"an end elsewhere":         {[]core.Event{begin(5, 0, 0, 1), in(1, end(5, 1, 3, 0, 1))}, "5555\n5555\n", "....\n....\n", [2]int{2, 0}, [2]int{2, 0}, [2]int{0, 0}, Sum{5, 1, 0, 1, 0, 3}},
+		"both ends":                {[]core.Event{in(1, begin(5, 0, 0)), end(5, 1, 1, 0), in(1, end(5, 3, 2, 0))}, "....\n....\n", "555.\n....\n", [2]int{0, 0}, [2]int{0, 1}, [2]int{0, 0}, Sum{5, 1, 0, 3, 3, 2}},
+		"its own end first":        {[]core.Event{in(1, begin(5, 0, 0)), in(1, end(5, 2, 2, 0)), end(5, 3, 6, 0)}, "....\n....\n", "55..\n....\n", [2]int{0, 0}, [2]int{0, 1}, [2]int{0, 0}, Sum{5, 1, 0, 3, 2, 6}},
+		"rows in both":             {[]core.Event{begin(5, 0, 0), in(1, begin(5, 1, 0, 1)), in(1, end(5, 2, 6, 0, 1)), end(5, 3, 5, 0)}, "555.\n....\n", ".5..\n.5..\n", [2]int{0, 0}, [2]int{1, 2}, [2]int{0, 1}, Sum{5, 2, 0, 3, 5, 5}},
+		"only one ended":           {[]core.Event{begin(5, 0, 0), in(1, begin(5, 1, 0, 1)), end(5, 2, 6, 0)}, "55..\n....\n", ".555\n.555\n", [2]int{0, 2}, [2]int{1, 2}, [2]int{0, 1}, Sum{5, 2, 0, 2, 2, 6}},
+	} {
+		for part, want := range []string{c.first, c.other} {
+			if got := Draw(c.events, part, 2, 0, 4); got != want {
+				t.Errorf("%s, part %d: %q", name, part, got)
+			}
+			if got := Busy(c.events, part, 3); got != c.busy[part] {
+				t.Errorf("%s, part %d: %d busy", name, part, got)
+			}
+			if most, at := Peak(c.events, part); most != c.peak[part] || at != api.Time(c.at[part]) {
+				t.Errorf("%s, part %d: %d at %d", name, part, most, at)
+			}
+		}
+		if got := Sums(c.events); !slices.Equal(got, []Sum{c.sum}) {
+			t.Errorf("%s: %v", name, got)
+		}
+	}
+}
+
 func TestDraw(t *testing.T) { // P32.4
 	if got := Draw([]core.Event{begin(12, 1, 0, 1), end(12, 3, 2, 0, 1)}, 0, 2, 0, 4); got != ".22.\n.22.\n" {
 		t.Error(got)
